@@ -1,0 +1,60 @@
+package json
+
+import (
+	"courant/api"
+)
+
+const digits = "0123456789abcdef"
+
+// Print is the text of a right value, without white.
+func Print(v api.Json) string {
+	if !Right(v) {
+		return ""
+	}
+	return string(appendValue(nil, v))
+}
+
+// appendValue is out, and behind it the text of a right value, which is not nested deeper than calls may be.
+func appendValue(out []byte, v api.Json) []byte {
+	switch v.Kind {
+	case api.JNumber:
+		return append(out, v.Text...)
+	case api.JString:
+		return appendString(out, v.Text)
+	case api.JArray:
+		return append(appendMembers(append(out, '['), v), ']')
+	case api.JObject:
+		return append(appendMembers(append(out, '{'), v), '}')
+	}
+	return append(out, words[v.Kind]...)
+}
+
+// appendMembers is out, and behind it what is within an array or an object.
+func appendMembers(out []byte, v api.Json) []byte {
+	for i, x := range v.L {
+		if i > 0 {
+			out = append(out, ',')
+		}
+		if v.Kind == api.JObject {
+			out = append(appendString(out, v.Keys[i]), ':')
+		}
+		out = appendValue(out, x)
+	}
+	return out
+}
+
+// appendString is out, and behind it a string, between quotes.
+func appendString(out []byte, text string) []byte {
+	out = append(out, '"')
+	for _, c := range []byte(text) {
+		switch {
+		case c == '"' || c == '\\':
+			out = append(out, '\\', c)
+		case c < blank:
+			out = append(out, '\\', 'u', '0', '0', digits[c>>4], digits[c&15])
+		default:
+			out = append(out, c)
+		}
+	}
+	return append(out, '"')
+}
