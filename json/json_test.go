@@ -333,6 +333,46 @@ func TestWalkTellsWhatWasThere(t *testing.T) {
 	}
 }
 
+// nested is n arrays and objects by turns within one another, each with a number beside what it has within it.
+func nested(n int) api.Json {
+	out := null()
+	for i := range n {
+		if i%2 == 0 {
+			out = array(out, number(strconv.Itoa(i)))
+		} else {
+			out = object([]string{"a", strconv.Itoa(i)}, out, number("7"))
+		}
+	}
+	return out
+}
+
+// TestWalkDeepTellsNewMemory: however deep it is, what is written into what was told is seen nowhere else, be the walk ended early or not (where it is not, all that is told has to stay below 2^31 bytes).
+func TestWalkDeepTellsNewMemory(t *testing.T) {
+	for _, x := range []struct{ depth, most int }{{64, 200}, {65, 200}, {66, 200}, {80, 200}, {1000, 2001}, {30000, 40}} {
+		v := nested(x.depth)
+		walk := json.Walk(v)
+		spoil(v)
+		for range 2 {
+			n, want := 0, nested(x.depth)
+			for depth, got := range walk {
+				if n <= x.depth && (depth != n || !same(got, want)) {
+					t.Fatalf("P2.2, R3: %d deep: what is told as number %d, of depth %d, was changed by what was written into others", x.depth, n, depth)
+				}
+				spoil(got)
+				if len(want.L) > 0 {
+					want = want.L[0]
+				}
+				if n++; n == x.most {
+					break
+				}
+			}
+			if n != min(x.most, 2*x.depth+1) {
+				t.Errorf("P2.2: %d deep: %d are told", x.depth, n)
+			}
+		}
+	}
+}
+
 // TestWalkDeepAndWide would not end in time if the work of a walk grew with the square of what it tells.
 func TestWalkDeepAndWide(t *testing.T) {
 	const depth = 300000

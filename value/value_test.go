@@ -392,6 +392,46 @@ func TestWalkOwn(t *testing.T) {
 	}
 }
 
+// nested is n arrays and maps by turns within one another, each with bytes beside what it has within it.
+func nested(n int) api.Value {
+	out := null()
+	for i := range n {
+		if i%2 == 0 {
+			out = list(api.Array, out, octets(api.Bytes, "bytes"))
+		} else {
+			out = pairs([]string{"a", "b"}, out, octets(api.String, "text"))
+		}
+	}
+	return out
+}
+
+// TestWalkOwnDeep: R3 of what is deep, be the walk ended early or not (where it is not, all that is told has to stay below 2^31 bytes).
+func TestWalkOwnDeep(t *testing.T) {
+	for _, x := range []struct{ depth, most int }{{64, 200}, {65, 200}, {80, 200}, {1000, 2001}, {30000, 40}} {
+		v := nested(x.depth)
+		walk := value.Walk(v)
+		spoil(v)
+		for range 2 {
+			n, want := 0, nested(x.depth)
+			for depth, got := range walk {
+				if n <= x.depth && (depth != n+1 || !same(got, want)) {
+					t.Fatalf("P4.1, R3: %d deep: what is told as number %d, of depth %d, was changed by what was written into others", x.depth, n, depth)
+				}
+				spoil(got)
+				if len(want.L) > 0 {
+					want = want.L[0]
+				}
+				if n++; n == x.most {
+					break
+				}
+			}
+			if n != min(x.most, 2*x.depth+1) {
+				t.Errorf("P4.1: %d deep: %d are told", x.depth, n)
+			}
+		}
+	}
+}
+
 // TestWalkDeep: a walk of what is nested deeper than calls may be, or is a great deal to tell, comes to its end.
 func TestWalkDeep(t *testing.T) {
 	v := chain(1000000, null())
