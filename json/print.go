@@ -2,9 +2,8 @@ package json
 
 import (
 	"courant/api"
+	"courant/quote"
 )
-
-const digits = "0123456789abcdef"
 
 // Print is the text of a right value, without white.
 func Print(v api.Json) string {
@@ -20,7 +19,7 @@ func appendValue(out []byte, v api.Json) []byte {
 	case api.JNumber:
 		return append(out, v.Text...)
 	case api.JString:
-		return appendString(out, v.Text)
+		return append(out, quote.Text(v.Text)...)
 	case api.JArray:
 		return append(appendMembers(append(out, '['), v), ']')
 	case api.JObject:
@@ -36,25 +35,9 @@ func appendMembers(out []byte, v api.Json) []byte {
 			out = append(out, ',')
 		}
 		if v.Kind == api.JObject {
-			out = append(appendString(out, v.Keys[i]), ':')
+			out = append(append(out, quote.Text(v.Keys[i])...), ':')
 		}
 		out = appendValue(out, x)
 	}
 	return out
-}
-
-// appendString is out, and behind it a string, between quotes.
-func appendString(out []byte, text string) []byte {
-	out = append(out, '"')
-	for _, c := range []byte(text) {
-		switch {
-		case c == '"' || c == '\\':
-			out = append(out, '\\', c)
-		case c < blank:
-			out = append(out, '\\', 'u', '0', '0', digits[c>>4], digits[c&15])
-		default:
-			out = append(out, c)
-		}
-	}
-	return append(out, '"')
 }
